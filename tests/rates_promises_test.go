@@ -7,8 +7,8 @@ import (
 	"loop.example/tradecircles/impl"
 )
 
-// turn is for tables of which it is known that they are.
-func turn(t *testing.T, a [][]int) [][]int {
+// turnedTable is for tables of which it is known that they are.
+func turnedTable(t *testing.T, a [][]int) [][]int {
 	t.Helper()
 	turned, ok := impl.RateTurn(a)
 	if !ok || !impl.RateIn(turned) {
@@ -17,7 +17,7 @@ func turn(t *testing.T, a [][]int) [][]int {
 	return turned
 }
 
-func best(t *testing.T, a [][]int, i int, k int) int {
+func bestRate(t *testing.T, a [][]int, i int, k int) int {
 	t.Helper()
 	value, ok := impl.RateBest(a, i, k)
 	if !ok {
@@ -26,7 +26,7 @@ func best(t *testing.T, a [][]int, i int, k int) int {
 	return value
 }
 
-func step(t *testing.T, a [][]int, i int, k int) int {
+func stepRate(t *testing.T, a [][]int, i int, k int) int {
 	t.Helper()
 	value, ok := impl.RateStep(a, i, k)
 	if !ok {
@@ -37,7 +37,7 @@ func step(t *testing.T, a [][]int, i int, k int) int {
 
 func TestPromise1(t *testing.T) {
 	for _, a := range sampleTables() {
-		turn(t, a)
+		turnedTable(t, a)
 		names := []int{0, 1, 2, 3, 4}[:len(a)]
 		named, ok := impl.RateNamed(a, names)
 		if !ok || !sameRows(named, a) {
@@ -48,11 +48,11 @@ func TestPromise1(t *testing.T) {
 
 func TestPromise2(t *testing.T) {
 	for _, a := range sampleTables() {
-		turned := turn(t, a)
+		turned := turnedTable(t, a)
 		for _, way := range waysOver(len(a)) {
 			value, ok := impl.RateWay(a, way)
 			wantNumber(t, "RateWay", value, ok, wayWorth(a, way))
-			if value > best(t, a, way[0], way[len(way)-1]) {
+			if value > bestRate(t, a, way[0], way[len(way)-1]) {
 				t.Errorf("RateWay(%v, %v) = %d is more than RateBest", a, way, value)
 			}
 			slices.Reverse(way)
@@ -91,7 +91,7 @@ func TestPromise4(t *testing.T) {
 		if count, ok := impl.RateRounds(a); !ok || count < 1 {
 			t.Errorf("RateRounds(%v) = %d, %t", a, count, ok)
 		}
-		if !impl.RateGains(turn(t, a)) {
+		if !impl.RateGains(turnedTable(t, a)) {
 			t.Errorf("RateGains does not hold for RateTurn(%v)", a)
 		}
 	}
@@ -104,7 +104,7 @@ func TestPromise5(t *testing.T) {
 	with, without := 0, 0
 	for _, a := range sampleTables() {
 		count, ok := impl.RateRounds(a)
-		turned, turnedOk := impl.RateRounds(turn(t, a))
+		turned, turnedOk := impl.RateRounds(turnedTable(t, a))
 		if !ok || !turnedOk || count != turned {
 			t.Errorf("RateRounds(%v) = %d, %t, of RateTurn %d, %t", a, count, ok, turned, turnedOk)
 		}
@@ -146,8 +146,8 @@ func TestPromise7(t *testing.T) {
 		for i := range a {
 			for k := range a {
 				atOnce := a[i][k] * power(12, len(a)-2)
-				if value := best(t, a, i, k); value < atOnce || value > step(t, a, i, k) {
-					t.Errorf("RateBest(%v, %d, %d) = %d, at once %d, RateStep %d", a, i, k, value, atOnce, step(t, a, i, k))
+				if value := bestRate(t, a, i, k); value < atOnce || value > stepRate(t, a, i, k) {
+					t.Errorf("RateBest(%v, %d, %d) = %d, at once %d, RateStep %d", a, i, k, value, atOnce, stepRate(t, a, i, k))
 				}
 			}
 		}
@@ -160,7 +160,7 @@ func TestPromise8(t *testing.T) {
 		gains := impl.RateGains(a)
 		for i := range a {
 			for k := range a {
-				value, least := step(t, a, i, k), best(t, a, i, k)
+				value, least := stepRate(t, a, i, k), bestRate(t, a, i, k)
 				if value < least || !gains && value != least {
 					t.Errorf("RateStep(%v, %d, %d) = %d, RateBest %d, RateGains %t", a, i, k, value, least, gains)
 				}
@@ -180,12 +180,12 @@ func TestPromise8(t *testing.T) {
 
 func TestPromise9(t *testing.T) {
 	for _, a := range sampleTables() {
-		turned := turn(t, a)
-		if !sameRows(turn(t, turned), a) {
-			t.Errorf("RateTurn of RateTurn(%v) = %v", a, turn(t, turned))
+		turned := turnedTable(t, a)
+		if !sameRows(turnedTable(t, turned), a) {
+			t.Errorf("RateTurn of RateTurn(%v) = %v", a, turnedTable(t, turned))
 		}
-		if best(t, turned, 0, 1) != best(t, a, 1, 0) {
-			t.Errorf("RateBest(RateTurn(%v), 0, 1) = %d, want %d", a, best(t, turned, 0, 1), best(t, a, 1, 0))
+		if bestRate(t, turned, 0, 1) != bestRate(t, a, 1, 0) {
+			t.Errorf("RateBest(RateTurn(%v), 0, 1) = %d, want %d", a, bestRate(t, turned, 0, 1), bestRate(t, a, 1, 0))
 		}
 	}
 }
@@ -200,8 +200,8 @@ func TestPromise10(t *testing.T) {
 			if !ok || !impl.RateIn(named) {
 				t.Fatalf("RateNamed(%v, %v) = %v, %t", a, names, named, ok)
 			}
-			if best(t, named, names[0], names[1]) != best(t, a, 0, 1) {
-				t.Errorf("RateBest of RateNamed(%v, %v) = %d, want %d", a, names, best(t, named, names[0], names[1]), best(t, a, 0, 1))
+			if bestRate(t, named, names[0], names[1]) != bestRate(t, a, 0, 1) {
+				t.Errorf("RateBest of RateNamed(%v, %v) = %d, want %d", a, names, bestRate(t, named, names[0], names[1]), bestRate(t, a, 0, 1))
 			}
 			count, _ := impl.RateRounds(a)
 			renamed, ok := impl.RateRounds(named)
@@ -224,8 +224,8 @@ func TestPromise11(t *testing.T) {
 			continue
 		}
 		tried++
-		if impl.RateGains(a) || !impl.RateFair(turn(t, a)) {
-			t.Errorf("RateFair(%v) holds, RateGains %t, RateFair of RateTurn %t", a, impl.RateGains(a), impl.RateFair(turn(t, a)))
+		if impl.RateGains(a) || !impl.RateFair(turnedTable(t, a)) {
+			t.Errorf("RateFair(%v) holds, RateGains %t, RateFair of RateTurn %t", a, impl.RateGains(a), impl.RateFair(turnedTable(t, a)))
 		}
 		for i := range a {
 			for k := range a {
