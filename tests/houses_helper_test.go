@@ -134,6 +134,15 @@ func someOwn(d *dice, n int) [][]int {
 	return withBest(d, best)
 }
 
+// likeOwnLeast returns wishes by which all people like their own houses least.
+func likeOwnLeast(n int) [][]int {
+	w := make([][]int, n)
+	for i := range w {
+		w[i] = append(slices.DeleteFunc(slices.Clone(countUp(n)), func(house int) bool { return house == i }), i)
+	}
+	return w
+}
+
 // everyWishes returns all wishes of n people, which are too many for more than three.
 func everyWishes(n int) [][][]int {
 	var all [][][]int

@@ -126,11 +126,7 @@ func TestNoGivings(t *testing.T) {
 				wantNoGiving(t, w, g)
 			}
 		}
-		// All like their own houses least.
-		w := make([][]int, n)
-		for i := range w {
-			w[i] = append(slices.DeleteFunc(slices.Clone(countUp(n)), func(house int) bool { return house == i }), i)
-		}
+		w := likeOwnLeast(n)
 		if !impl.HouseBlocks(w, countUp(n), 3) {
 			t.Errorf("HouseBlocks(%v, own houses, 3) does not hold", w)
 		}
