@@ -7,7 +7,7 @@ import (
 )
 
 // ordersOf has, for each number of people, all lists that have each number less than it once, in the order of lists.
-var ordersOf = [][][]int{2: ordersOver(2), 3: ordersOver(3), 4: ordersOver(4), 5: ordersOver(5)}
+var ordersOf = [][][]int{2: ordersOver(2), 3: ordersOver(3), 4: ordersOver(4), 5: ordersOver(5), 6: ordersOver(6)}
 
 func ordersOver(n int) [][]int {
 	return slices.DeleteFunc(listsOver(n, 0, n-1), func(list []int) bool { return !allDifferent(list) })
