@@ -96,6 +96,10 @@ func (t rateTable) roundValue(ring []int) int {
 	return t.value(closed, t.size())
 }
 
+func (t rateTable) gainsBy(ring []int) bool {
+	return t.roundValue(ring) > unitAfter(t.size())
+}
+
 // longer yields a list and all that go on behind it with other moneys from least on, and reports whether more are wanted. A list is yielded ahead of those that go on behind it, as the order of lists has it, and is copied, for the next ones take its memory.
 func longer(n int, least int, list []int, yield func([]int) bool) bool {
 	if len(list) >= 2 && !yield(slices.Clone(list)) {
@@ -130,9 +134,8 @@ func rounds(n int) iter.Seq[[]int] {
 // gaining gives all rounds that gain, in the order of lists.
 func (t rateTable) gaining() iter.Seq[[]int] {
 	return func(yield func([]int) bool) {
-		n := t.size()
-		for ring := range rounds(n) {
-			if t.roundValue(ring) > unitAfter(n) && !yield(ring) {
+		for ring := range rounds(t.size()) {
+			if t.gainsBy(ring) && !yield(ring) {
 				return
 			}
 		}

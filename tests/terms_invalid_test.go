@@ -9,11 +9,11 @@ import (
 	"loop.example/tradecircles/impl"
 )
 
-// spoilingBytes are those that are put into terms: signs, and bytes that are none.
+// spoilingBytes are those that are put into texts: signs of terms, digits, letters, spaces, and others.
 const spoilingBytes = termSigns + "01fghABCDEFIj_{}<>*+,:;/=\" \t\r\n\x00\x01\x7f\x80\xe4\xff"
 
-// spoiledTerms returns texts that differ from a term in one byte.
-func spoiledTerms(s string) []string {
+// spoiledTexts returns texts that differ from a text in one byte.
+func spoiledTexts(s string) []string {
 	var all []string
 	for at := range len(s) + 1 {
 		for k := range len(spoilingBytes) {

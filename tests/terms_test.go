@@ -392,7 +392,7 @@ func TestSpoiledTerms(t *testing.T) {
 	for n := 2; n <= impl.PeopleMax; n++ {
 		all, terms := 0, 0
 		for _, s := range sampleTerms(n, 25) {
-			for _, spoiled := range spoiledTerms(s) {
+			for _, spoiled := range spoiledTexts(s) {
 				all++
 				if wantText(t, n, spoiled) {
 					terms++
